@@ -201,14 +201,31 @@ func TestMaxNodes(t *testing.T) {
 		wantPrinted(t, what+", in another order", moved(c, e), want)
 		wantRefused(t, what+", and one node more", tree.Join(api.Node{Kind: api.EFun, Name: "x"}, e), api.ErrFull)
 	}
-	// The longest text that there is is read, too.
-	long := tree.Join(api.Node{Kind: api.EFun, Name: "x"}, read(halves("app", 300, `"s"`)))
-	for i := range long.L {
-		if long.L[i].Kind == api.EStr {
-			long.L[i].S = strings.Repeat("\x00", 200)
+}
+
+// 8.1, 8.2, a tree of which all that is written is as long as may be.
+func TestLongest(t *testing.T) {
+	cases := func(many int, branch string) string {
+		s := `(case "s"`
+		for i := range many {
+			s += fmt.Sprintf(" Abcdefghijklmnopqr%02d abcdefghijklmnopqr%02d %s", i, i, branch)
+		}
+		return s
+	}
+	e := read(cases(18, cases(30, `"s"`)+")") + " B b " + cases(20, `"s"`) + "))")
+	if len(e.L) != 600 {
+		t.Errorf("%d nodes, want 600", len(e.L))
+	}
+	for i := range e.L {
+		if e.L[i].Kind == api.EStr {
+			e.L[i].S = strings.Repeat("\x00", 200)
 		}
 	}
-	wantPrinted(t, "long texts", long, wantedText(long, 599))
+	want := wantedText(e, 599)
+	if len(want) < 480000 {
+		t.Errorf("%d bytes, want more", len(want))
+	}
+	wantPrinted(t, "all that is longest", e, want)
 }
 
 // 8.1, 8.2, a record of MaxWide parts, a case of MaxWide branches, and of one more.
